@@ -17,9 +17,9 @@ func edgeBytes() []byte {
 }
 
 // allStrings goes through all lists of up to most elements of letters.
-func allStrings(letters []byte, most int, each func([]byte)) {
-	var grow func(s []byte)
-	grow = func(s []byte) {
+func allStrings[T any](letters []T, most int, each func([]T)) {
+	var grow func(s []T)
+	grow = func(s []T) {
 		each(s)
 		if len(s) == most {
 			return
@@ -55,4 +55,13 @@ func randomChar(r *rand.Rand) int64 {
 			return c
 		}
 	}
+}
+
+// randomText draws all of its characters from letters.
+func randomText(r *rand.Rand, letters []int64, size int) []int64 {
+	out := make([]int64, size)
+	for i := range out {
+		out[i] = letters[r.Intn(len(letters))]
+	}
+	return out
 }
