@@ -33,12 +33,15 @@ func many(c int64, times int) []int64 {
 	return slices.Repeat([]int64{c}, times)
 }
 
-func TestParaFaultTells(t *testing.T) {
+type paraCase struct {
+	text       []int64
+	base, want int64
+}
+
+// paraCases are at the bounds of all codes of ParaFault, and have more than one fault where their order is asked.
+func paraCases() []paraCase {
 	full := many(97, impl.MaxText)
-	for _, c := range []struct {
-		text       []int64
-		base, want int64
-	}{
+	cases := []paraCase{
 		{nil, 0, impl.OK},
 		{nil, 1, impl.OK},
 		{[]int64{}, 1, impl.OK},
@@ -66,7 +69,19 @@ func TestParaFaultTells(t *testing.T) {
 		{many(10, impl.MaxText+1), 0, impl.ErrMany},
 		{many(10, impl.MaxText+1), 2, impl.ErrMany},
 		{many(-1, impl.MaxText+1), -1, impl.ErrMany},
-	} {
+	}
+	for _, code := range []int64{impl.ErrMany, impl.ErrRange} {
+		for _, text := range faultyTexts(code) {
+			for _, base := range []int64{0, 1, 2} {
+				cases = append(cases, paraCase{text, base, code})
+			}
+		}
+	}
+	return cases
+}
+
+func TestParaFaultTells(t *testing.T) {
+	for _, c := range paraCases() {
 		checkParaFault(t, c.text, c.base, c.want)
 	}
 }
@@ -79,16 +94,6 @@ func checkParaFault(t *testing.T, text []int64, base, want int64) {
 	got := impl.ExplicitOf(text, base)
 	if got.Code != want || want != impl.OK && len(got.Levels)+len(got.Classes) != 0 {
 		t.Error("explicit", len(text), base, got.Code, want)
-	}
-}
-
-func TestParaFaultAsksTextFault(t *testing.T) {
-	for _, code := range []int64{impl.ErrMany, impl.ErrRange} {
-		for _, text := range faultyTexts(code) {
-			for _, base := range []int64{0, 1, 2} {
-				checkParaFault(t, text, base, code)
-			}
-		}
 	}
 }
 
@@ -176,7 +181,6 @@ func TestEmbeddings(t *testing.T) {
 }
 
 func TestOverrides(t *testing.T) {
-	const toL, toR = impl.ClassL, impl.ClassR
 	checkCases(t, []explicitCase{
 		{[]int64{lro, 1488, 49, 32, 97, pdf, 1488}, 0, []int64{-1, 2, 2, 2, 2, -1, 0}, map[int]int64{1: toL, 2: toL, 3: toL}},
 		{[]int64{rlo, 1488, 49, 32, 97, pdf, 97}, 0, []int64{-1, 1, 1, 1, 1, -1, 0}, map[int]int64{2: toR, 3: toR, 4: toR}},
