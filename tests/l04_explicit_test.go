@@ -80,10 +80,24 @@ func paraCases() []paraCase {
 	return cases
 }
 
-func TestParaFaultTells(t *testing.T) {
+// askParaFault asks check of all paraCases, and of each class.
+func askParaFault(t *testing.T, check func(t *testing.T, text []int64, base, want int64)) {
+	t.Helper()
 	for _, c := range paraCases() {
-		checkParaFault(t, c.text, c.base, c.want)
+		check(t, c.text, c.base, c.want)
 	}
+	atTheEnds(func(c int64) {
+		want := int64(impl.OK)
+		if classByList(c) == impl.ClassB {
+			want = impl.ErrForm
+		}
+		check(t, []int64{c}, 0, want)
+		check(t, []int64{1488, c, 97}, 1, want)
+	})
+}
+
+func TestParaFaultTells(t *testing.T) {
+	askParaFault(t, checkParaFault)
 }
 
 // checkParaFault asks ExplicitOf the same, which has nothing beside a code.
@@ -95,17 +109,6 @@ func checkParaFault(t *testing.T, text []int64, base, want int64) {
 	if got.Code != want || want != impl.OK && len(got.Levels)+len(got.Classes) != 0 {
 		t.Error("explicit", len(text), base, got.Code, want)
 	}
-}
-
-func TestParaFaultOfEachClass(t *testing.T) {
-	atTheEnds(func(c int64) {
-		want := int64(impl.OK)
-		if classByList(c) == impl.ClassB {
-			want = impl.ErrForm
-		}
-		checkParaFault(t, []int64{c}, 0, want)
-		checkParaFault(t, []int64{1488, c, 97}, 1, want)
-	})
 }
 
 func TestLeast(t *testing.T) {

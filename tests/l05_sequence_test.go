@@ -301,16 +301,7 @@ func TestSequencesOfEachClass(t *testing.T) {
 }
 
 func TestSequencesAskParaFault(t *testing.T) {
-	for _, c := range paraCases() {
-		checkSequenceFault(t, c.text, c.base, c.want)
-	}
-	atTheEnds(func(c int64) {
-		want := int64(impl.OK)
-		if classByList(c) == impl.ClassB {
-			want = impl.ErrForm
-		}
-		checkSequenceFault(t, []int64{1488, c, 97}, 1, want)
-	})
+	askParaFault(t, checkSequenceFault)
 }
 
 // checkSequenceFault asks that there is nothing beside a code.
